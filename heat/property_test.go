@@ -399,8 +399,12 @@ func TestRacesAsDefined(t *testing.T) {
 func TestBasesAsDefined(t *testing.T) {
 	s := samplerOf(92)
 	bases := map[bool]int{}
-	for range 100 {
-		h, agreed := s.race(4, 7)
+	for i := range 120 {
+		words := 7
+		if i < 20 {
+			words = api.MaxHeatWords
+		}
+		h, agreed := s.race(4, words)
 		checkLeastBase(t, s.finishes[h.Runners], h, agreed)
 	}
 	for range 600 {
